@@ -6,6 +6,7 @@ import (
 
 	"sentinel/api"
 	"sentinel/bitset"
+	"sentinel/internal/dfatest"
 	"sentinel/nfa"
 	"sentinel/subset"
 )
@@ -108,7 +109,7 @@ func TestRenumberingPreservesWords(t *testing.T) {
 				t.Errorf("%v accepts %d: %t, but renumbered %t", s.DFA, w, want, is)
 			}
 		}
-		if again := renumber(t, r); !same(again, r) {
+		if again := renumber(t, r); !dfatest.Same(again, r) {
 			t.Errorf("%v renumbered is %v, and renumbered again %v", s.DFA, r, again)
 		}
 	}
@@ -129,7 +130,7 @@ func TestNFAsOfAutomata(t *testing.T) {
 			}
 		}
 		d, sets := determinize(t, n)
-		if want := renumber(t, s.DFA); !same(d, want) {
+		if want := renumber(t, s.DFA); !dfatest.Same(d, want) {
 			t.Errorf("the NFA of %v determinized is %v, but renumbered it is %v", s.DFA, d, want)
 		}
 		if slices.ContainsFunc(sets, func(l []int) bool { return len(l) != 1 }) {
@@ -144,7 +145,7 @@ func TestNFAsOfAutomata(t *testing.T) {
 func TestSubsetAutomataAreNumberedByFirstVisit(t *testing.T) {
 	for _, s := range samples() {
 		d, _ := determinize(t, s.NFA)
-		if r := renumber(t, d); !same(r, d) {
+		if r := renumber(t, d); !dfatest.Same(r, d) {
 			t.Errorf("the subset automaton of %v is %v, but renumbered %v", s.NFA, d, r)
 		}
 	}

@@ -6,52 +6,25 @@ import (
 	"testing"
 
 	"sentinel/api"
+	"sentinel/internal/dfatest"
 	"sentinel/nfa"
 	"sentinel/subset"
 )
 
-// wild returns a deterministic automaton that has few chances of being valid.
-func (c *choice) wild() api.DFA {
-	numbers := []int{math.MinInt, -1, 0, 7, 64, math.MaxInt}
-	d := api.DFA{Vars: c.below(3)}
-	states := c.below(5)
-	if c.below(8) == 0 {
-		d.Vars = numbers[c.below(len(numbers))]
-	}
-	for range states {
-		row := make([]int, 1<<max(0, min(d.Vars, 3)))
-		for x := range row {
-			row[x] = c.below(states)
-			if c.below(30) == 0 {
-				row[x] = c.below(8) - 2
-			}
-		}
-		if c.below(12) == 0 {
-			row = slices.Repeat(row, 2*c.below(2))
-		}
-		d.Next, d.Final = append(d.Next, row), append(d.Final, c.below(2) == 0)
-	}
-	d.Start = c.below(states+1) - c.below(2)*c.below(2)*c.below(2)
-	if c.below(8) == 0 {
-		d.Final = make([]bool, c.below(5))
-	}
-	return d
-}
-
 // wildEdges returns a nondeterministic automaton that has few chances of being valid.
 func (c *choice) wildEdges() api.NFA {
-	n := c.nondeterministic(c.below(3), c.below(6), c.below(8))
-	switch c.below(14) {
+	n := c.nondeterministic(c.Below(3), c.Below(6), c.Below(8))
+	switch c.Below(14) {
 	case 0:
-		n.Vars = []int{math.MinInt, -1, 7, math.MaxInt}[c.below(4)]
+		n.Vars = []int{math.MinInt, -1, 7, math.MaxInt}[c.Below(4)]
 	case 1:
-		n.States = []int{math.MinInt, -1, 65, math.MaxInt}[c.below(4)]
+		n.States = []int{math.MinInt, -1, 65, math.MaxInt}[c.Below(4)]
 	case 2:
-		n.Start = append(n.Start, c.below(8)-1)
+		n.Start = append(n.Start, c.Below(8)-1)
 	case 3:
-		n.Final = append(n.Final, c.below(8)-1)
+		n.Final = append(n.Final, c.Below(8)-1)
 	case 4:
-		n.Edges = append(n.Edges, api.Edge{From: c.below(3) - 1, To: c.below(8), Pos: uint8(c.below(256)), Neg: uint8(c.below(256))})
+		n.Edges = append(n.Edges, api.Edge{From: c.Below(3) - 1, To: c.Below(8), Pos: uint8(c.Below(256)), Neg: uint8(c.Below(256))})
 	case 5:
 		n.Edges = make([]api.Edge, 513)
 	case 6:
@@ -62,18 +35,18 @@ func (c *choice) wildEdges() api.NFA {
 
 // R1 and R2: no function panics, the error of Check comes first, and with an error there is no result.
 func TestErrorsOfAnyAutomata(t *testing.T) {
-	draw := choice(72)
+	draw := choice{72}
 	counts := map[api.Errno]int{}
 	for range 20000 {
-		d := draw.wild()
-		fault := errorOf(d)
+		d := draw.Wild()
+		fault := dfatest.ErrorOf(d)
 		counts[fault]++
 		if e := subset.Check(d); e != fault {
 			t.Errorf("Check(%v) = %d, want %d", d, e, fault)
 		}
-		w := make([]uint8, []int{0, 1, 2, 64, 65}[draw.below(5)])
+		w := make([]uint8, []int{0, 1, 2, 64, 65}[draw.Below(5)])
 		for i := range w {
-			w[i] = uint8(draw.below(2) * draw.below(6))
+			w[i] = uint8(draw.Below(2) * draw.Below(6))
 		}
 		switch {
 		case fault != api.OK:
@@ -86,10 +59,10 @@ func TestErrorsOfAnyAutomata(t *testing.T) {
 		case slices.ContainsFunc(w, func(x uint8) bool { return int(x) >= 1<<d.Vars }):
 			checkNoWord(t, d, w, api.ErrArg)
 		default:
-			k := endOf(d, d.Start, w)
+			k := dfatest.EndOf(d, d.Start, w)
 			checkWord(t, d, w, k, d.Final[k])
 		}
-		checkRenumber(t, d, renumberedOf(d), api.OK)
+		checkRenumber(t, d, dfatest.Renumbered(d), api.OK)
 		checkToNFA(t, d, nondeterministicOf(d), api.OK)
 	}
 	for _, e := range []api.Errno{api.OK, api.ErrForm, api.ErrShort, api.ErrVars, api.ErrState} {
@@ -100,10 +73,10 @@ func TestErrorsOfAnyAutomata(t *testing.T) {
 }
 
 func TestErrorsOfDeterminize(t *testing.T) {
-	draw := choice(73)
+	draw := choice{73}
 	counts := map[api.Errno]int{}
 	for range 5000 {
-		n, budget := draw.wildEdges(), draw.below(12)-2
+		n, budget := draw.wildEdges(), draw.Below(12)-2
 		var want api.DFA
 		var sets [][]int
 		fault := nfa.Check(n)
@@ -160,27 +133,7 @@ func TestNilIsEmpty(t *testing.T) {
 	checkDeterminize(t, api.NFA{States: 1, Start: []int{}, Final: []int{}, Edges: []api.Edge{}}, 1, want, [][]int{nil}, api.OK)
 }
 
-// padded returns an automaton with invalid elements in the memory behind its slices.
-func padded(d api.DFA) api.DFA {
-	d = copied(d)
-	for s, row := range d.Next {
-		d.Next[s] = append(row, -1, 9999)[:len(row)]
-	}
-	d.Next = append(d.Next, nil, []int{-1})[:len(d.Next)]
-	d.Final = append(d.Final, true, true)[:len(d.Final)]
-	return d
-}
-
-// whole returns a copy of an automaton with the memory behind its slices.
-func whole(d api.DFA) api.DFA {
-	d.Next, d.Final = slices.Clone(d.Next[:cap(d.Next)]), slices.Clone(d.Final[:cap(d.Final)])
-	for s, row := range d.Next {
-		d.Next[s] = slices.Clone(row[:cap(row)])
-	}
-	return d
-}
-
-// paddedEdges is the same for nondeterministic automata.
+// paddedEdges returns an automaton with invalid elements in the memory behind its slices.
 func paddedEdges(n api.NFA) api.NFA {
 	n.Start = append(slices.Clone(n.Start), -1, 99)[:len(n.Start)]
 	n.Final = append(slices.Clone(n.Final), 99, -1)[:len(n.Final)]
@@ -188,7 +141,7 @@ func paddedEdges(n api.NFA) api.NFA {
 	return n
 }
 
-// wholeEdges is the same for nondeterministic automata.
+// wholeEdges returns a copy of an automaton with the memory behind its slices.
 func wholeEdges(n api.NFA) api.NFA {
 	n.Start, n.Final, n.Edges = n.Start[:cap(n.Start)], n.Final[:cap(n.Final)], n.Edges[:cap(n.Edges)]
 	return copiedEdges(n)
@@ -197,16 +150,16 @@ func wholeEdges(n api.NFA) api.NFA {
 // R3: arguments are not changed, and what is beyond their length is not read.
 func TestArgumentsAreLeft(t *testing.T) {
 	for _, s := range some(deterministicSamples(), 4) {
-		d := padded(s.DFA)
+		d := dfatest.Padded(s.DFA)
 		w := append(slices.Clone(s.words[len(s.words)-1]), 255, 1)
-		before, word := whole(d), slices.Clone(w)
-		k := endOf(s.DFA, s.Start, w[:len(w)-2])
+		before, word := dfatest.Whole(d), slices.Clone(w)
+		k := dfatest.EndOf(s.DFA, s.Start, w[:len(w)-2])
 		checkWord(t, d, w[:len(w)-2], k, s.Final[k])
-		checkRenumber(t, d, renumberedOf(s.DFA), api.OK)
+		checkRenumber(t, d, dfatest.Renumbered(s.DFA), api.OK)
 		if n, e := subset.ToNFA(s.DFA); e == api.OK {
 			checkToNFA(t, d, n, api.OK)
 		}
-		if !same(whole(d), before) || !slices.Equal(w, word) {
+		if !dfatest.Same(dfatest.Whole(d), before) || !slices.Equal(w, word) {
 			t.Errorf("the arguments %v and %d have become %v and %d", before, word, d, w)
 		}
 	}
@@ -221,47 +174,34 @@ func TestArgumentsAreLeft(t *testing.T) {
 	}
 }
 
-// overwrite changes all the memory that a slice can reach.
-func overwrite[E any](s []E, value E) {
-	s = s[:cap(s)]
-	for i := range s {
-		s[i] = value
-	}
-}
-
 // checkRowsApart checks that no two of the given lists share memory, by changing all of them.
 func checkRowsApart(t *testing.T, name string, l [][]int) {
 	t.Helper()
-	for i, row := range l {
-		overwrite(row, -7-i)
-	}
-	for i, row := range l {
-		if slices.ContainsFunc(row, func(k int) bool { return k != -7-i }) {
-			t.Errorf("%s: list %d shares memory with another one", name, i)
-		}
+	if !dfatest.Apart(l) {
+		t.Errorf("%s: two lists share memory", name)
 	}
 }
 
 // R3: the rows of a resulting automaton share no memory with an argument or with each other.
 func TestRenumberSharesNoMemory(t *testing.T) {
 	for _, s := range some(deterministicSamples(), 3) {
-		d := copied(s.DFA)
+		d := dfatest.Copied(s.DFA)
 		for k := range d.Next { // Sharing in the argument must not lead to sharing in the result.
 			d.Next[k] = d.Next[0]
 		}
-		want := renumberedOf(d)
+		want := dfatest.Renumbered(d)
 		first, _ := subset.Renumber(d)
 		second, _ := subset.Renumber(d)
-		before := copied(d)
+		before := dfatest.Copied(d)
 		checkRowsApart(t, "Renumber", first.Next)
-		overwrite(first.Final, true)
-		overwrite(first.Next, nil)
-		if !same(d, before) || !same(second, want) {
+		dfatest.Overwrite(first.Final, true)
+		dfatest.Overwrite(first.Next, nil)
+		if !dfatest.Same(d, before) || !dfatest.Same(second, want) {
 			t.Errorf("changing the result of Renumber changes the argument to %v or another result to %v", d, second)
 		}
-		overwrite(d.Next[0], -7)
-		overwrite(d.Final, true)
-		if !same(second, want) {
+		dfatest.Overwrite(d.Next[0], -7)
+		dfatest.Overwrite(d.Final, true)
+		if !dfatest.Same(second, want) {
 			t.Errorf("changing the argument of Renumber changes the result to %v", second)
 		}
 	}
@@ -270,7 +210,7 @@ func TestRenumberSharesNoMemory(t *testing.T) {
 // R3: the same for the lists of a resulting nondeterministic automaton.
 func TestToNFASharesNoMemory(t *testing.T) {
 	for _, s := range some(deterministicSamples(), 3) {
-		d := copied(s.DFA)
+		d := dfatest.Copied(s.DFA)
 		first, e := subset.ToNFA(d)
 		if e != api.OK {
 			continue
@@ -278,8 +218,8 @@ func TestToNFASharesNoMemory(t *testing.T) {
 		second, _ := subset.ToNFA(d)
 		want := nondeterministicOf(d)
 		checkRowsApart(t, "ToNFA", [][]int{first.Start, first.Final})
-		overwrite(first.Edges, api.Edge{From: -7})
-		if !same(d, s.DFA) || !sameEdges(second, want) {
+		dfatest.Overwrite(first.Edges, api.Edge{From: -7})
+		if !dfatest.Same(d, s.DFA) || !sameEdges(second, want) {
 			t.Errorf("changing the result of ToNFA changes the argument to %v or another result to %v", d, second)
 		}
 	}
@@ -295,15 +235,15 @@ func TestDeterminizeSharesNoMemory(t *testing.T) {
 		first, l, _ := subset.Determinize(n, mostSets)
 		second, m, _ := subset.Determinize(n, mostSets)
 		checkRowsApart(t, "Determinize", slices.Concat(first.Next, l))
-		overwrite(first.Final, true)
-		overwrite(first.Next, nil)
-		overwrite(l, nil)
-		if !sameEdges(n, before) || !same(second, want) || !sameRows(m, sets) {
+		dfatest.Overwrite(first.Final, true)
+		dfatest.Overwrite(first.Next, nil)
+		dfatest.Overwrite(l, nil)
+		if !sameEdges(n, before) || !dfatest.Same(second, want) || !dfatest.SameRows(m, sets) {
 			t.Errorf("changing the result of Determinize changes the argument to %v or another result to %v, %d", n, second, m)
 		}
-		overwrite(n.Start, -7)
-		overwrite(n.Edges, api.Edge{From: -7})
-		if !same(second, want) || !sameRows(m, sets) {
+		dfatest.Overwrite(n.Start, -7)
+		dfatest.Overwrite(n.Edges, api.Edge{From: -7})
+		if !dfatest.Same(second, want) || !dfatest.SameRows(m, sets) {
 			t.Errorf("changing the argument of Determinize changes the result to %v, %d", second, m)
 		}
 	}
@@ -321,7 +261,7 @@ func TestParallelCalls(t *testing.T) {
 				want, sets := determinizedOf(s.NFA, mostSets)
 				d, l, e := subset.Determinize(s.NFA, mostSets)
 				r, f := subset.Renumber(d)
-				ok = ok && e == api.OK && f == api.OK && same(d, want) && same(r, want) && sameRows(l, sets)
+				ok = ok && e == api.OK && f == api.OK && dfatest.Same(d, want) && dfatest.Same(r, want) && dfatest.SameRows(l, sets)
 			}
 			done <- ok
 		}()

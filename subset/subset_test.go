@@ -6,6 +6,7 @@ import (
 	"testing"
 
 	"sentinel/api"
+	"sentinel/internal/dfatest"
 	"sentinel/subset"
 )
 
@@ -77,7 +78,7 @@ func TestRunAndAccepts(t *testing.T) {
 			t.Fatalf("Check(%v) = %d", s.DFA, e)
 		}
 		for _, w := range s.words {
-			k := endOf(s.DFA, s.Start, w)
+			k := dfatest.EndOf(s.DFA, s.Start, w)
 			checkWord(t, s.DFA, w, k, s.Final[k])
 			all++
 			if s.Final[k] {
@@ -124,7 +125,7 @@ func TestLettersOfTheAlphabet(t *testing.T) {
 func TestRenumber(t *testing.T) {
 	smaller := 0
 	for _, s := range deterministicSamples() {
-		want := renumberedOf(s.DFA)
+		want := dfatest.Renumbered(s.DFA)
 		checkRenumber(t, s.DFA, want, api.OK)
 		if len(want.Next) < len(s.Next) {
 			smaller++
