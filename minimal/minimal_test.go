@@ -10,29 +10,9 @@ import (
 	"sentinel/minimal"
 )
 
-// automaton returns an automaton with the given successors and final states.
-func automaton(vars, states int, next func(s, x int) int, final func(s int) bool) api.DFA {
-	d := api.DFA{Vars: vars}
-	for s := range states {
-		row := make([]int, 1<<vars)
-		for x := range row {
-			row[x] = next(s, x)
-		}
-		d.Next, d.Final = append(d.Next, row), append(d.Final, final(s))
-	}
-	return d
-}
-
-// cycle returns an automaton whose states lead around a cycle, one in each so many of which is final.
-func cycle(vars, states, every int) api.DFA {
-	return automaton(vars, states,
-		func(s, x int) int { return (s + 1) % states },
-		func(s int) bool { return s%every == every-1 })
-}
-
 // recent returns an automaton whose states are the last digits of the word; a word is accepted if the first of these is 1.
 func recent(vars, digits int) api.DFA {
-	return automaton(vars, 1<<digits,
+	return dfatest.Shaped(vars, 1<<digits,
 		func(s, x int) int { return (2*s + x%2) % (1 << digits) },
 		func(s int) bool { return s >= 1<<digits/2 })
 }
@@ -51,7 +31,7 @@ func ascending(n int) []int {
 func TestMinimize(t *testing.T) {
 	smaller, unchanged := 0, 0
 	for _, s := range samples() {
-		want := minimizedOf(s.DFA)
+		want := dfatest.Minimized(s.DFA)
 		checkMinimize(t, s.DFA, want, api.OK)
 		switch {
 		case len(want.Next) < len(dfatest.Renumbered(s.DFA).Next):
@@ -89,7 +69,7 @@ func TestMinimizeOfExamples(t *testing.T) {
 
 func TestClasses(t *testing.T) {
 	for _, s := range samples() {
-		checkClasses(t, s.DFA, classesOf(s.DFA), api.OK)
+		checkClasses(t, s.DFA, dfatest.Equivalent(s.DFA), api.OK)
 	}
 }
 
@@ -110,13 +90,13 @@ func TestClassesOfExamples(t *testing.T) {
 func TestRounds(t *testing.T) {
 	late := 0
 	for _, s := range samples() {
-		table := distinctionsOf(s.DFA)
+		table := dfatest.Distinctions(s.DFA)
 		for k := -2; k <= len(s.Next)+1; k++ {
-			checkRounds(t, s.DFA, k, roundsOf(table, k), api.OK)
+			checkRounds(t, s.DFA, k, dfatest.Together(table, k), api.OK)
 		}
-		checkRounds(t, s.DFA, math.MinInt, roundsOf(table, 0), api.OK)
-		checkRounds(t, s.DFA, math.MaxInt, roundsOf(table, math.MaxInt), api.OK)
-		if !slices.Equal(roundsOf(table, 4), roundsOf(table, 5)) {
+		checkRounds(t, s.DFA, math.MinInt, dfatest.Together(table, 0), api.OK)
+		checkRounds(t, s.DFA, math.MaxInt, dfatest.Together(table, math.MaxInt), api.OK)
+		if !slices.Equal(dfatest.Together(table, 4), dfatest.Together(table, 5)) {
 			late++
 		}
 	}
@@ -141,8 +121,8 @@ func TestRoundsOfExamples(t *testing.T) {
 // A round looks at the classes of the round before, not at those that it has already split.
 func TestRoundsAreOneAfterTheOther(t *testing.T) {
 	for _, vars := range []int{0, 1, 3} {
-		forwards := line(vars, 9)
-		backwards := automaton(vars, 9, func(s, x int) int { return max(s-1, 0) }, func(s int) bool { return s == 0 })
+		forwards := dfatest.Line(vars, 9)
+		backwards := dfatest.Shaped(vars, 9, func(s, x int) int { return max(s-1, 0) }, func(s int) bool { return s == 0 })
 		for k := range 8 {
 			checkRounds(t, forwards, k, append(make([]int, 8-k), ascending(k + 2)[1:]...), api.OK)
 			checkRounds(t, backwards, k, append(ascending(k+1), slices.Repeat([]int{k + 1}, 8-k)...), api.OK)
@@ -155,10 +135,10 @@ func TestRoundsAreOneAfterTheOther(t *testing.T) {
 func TestDistinguishAndEquivalent(t *testing.T) {
 	long := 0
 	for _, s := range samples() {
-		for a, row := range distinctionsOf(s.DFA) {
+		for a, row := range dfatest.Distinctions(s.DFA) {
 			for b, want := range row {
 				checkPair(t, s.DFA, a, b, want, api.OK)
-				if len(want.word) > 5 {
+				if len(want.Word) > 5 {
 					long++
 				}
 			}
@@ -171,45 +151,45 @@ func TestDistinguishAndEquivalent(t *testing.T) {
 
 func TestDistinguishOfExamples(t *testing.T) {
 	l := examples()
-	checkPair(t, l[0], 0, 2, distinction{nil, true}, api.OK)
-	checkPair(t, l[0], 0, 1, distinction{}, api.OK)
-	checkPair(t, l[1], 0, 1, distinction{[]uint8{0}, true}, api.OK)
-	checkPair(t, l[1], 1, 0, distinction{[]uint8{0}, true}, api.OK)
-	checkPair(t, l[1], 0, 2, distinction{nil, true}, api.OK)
-	checkPair(t, l[1], 1, 1, distinction{}, api.OK)
+	checkPair(t, l[0], 0, 2, by(nil), api.OK)
+	checkPair(t, l[0], 0, 1, dfatest.Distinction{}, api.OK)
+	checkPair(t, l[1], 0, 1, by([]uint8{0}), api.OK)
+	checkPair(t, l[1], 1, 0, by([]uint8{0}), api.OK)
+	checkPair(t, l[1], 0, 2, by(nil), api.OK)
+	checkPair(t, l[1], 1, 1, dfatest.Distinction{}, api.OK)
 	// The shortest word is smaller than the first one letter by letter: 3 before 0 3, and 2 before 3.
 	d := api.DFA{Vars: 2, Next: [][]int{{1, 1, 1, 2}, {1, 1, 1, 1}, {2, 2, 2, 2}, {0, 1, 1, 1}, {0, 1, 2, 2}}, Final: []bool{false, false, true, false, false}}
-	checkPair(t, d, 0, 1, distinction{[]uint8{3}, true}, api.OK)
-	checkPair(t, d, 3, 1, distinction{[]uint8{0, 3}, true}, api.OK)
-	checkPair(t, d, 3, 0, distinction{[]uint8{3}, true}, api.OK)
-	checkPair(t, d, 4, 3, distinction{[]uint8{2}, true}, api.OK)
+	checkPair(t, d, 0, 1, by([]uint8{3}), api.OK)
+	checkPair(t, d, 3, 1, by([]uint8{0, 3}), api.OK)
+	checkPair(t, d, 3, 0, by([]uint8{3}), api.OK)
+	checkPair(t, d, 4, 3, by([]uint8{2}), api.OK)
 }
 
 func TestStates(t *testing.T) {
-	for _, d := range []api.DFA{examples()[0], line(2, 4096)} {
+	for _, d := range []api.DFA{examples()[0], dfatest.Line(2, 4096)} {
 		for _, s := range []int{math.MinInt, -1, len(d.Next), math.MaxInt} {
-			checkPair(t, d, s, 0, distinction{}, api.ErrState)
-			checkPair(t, d, 0, s, distinction{}, api.ErrState)
-			checkPair(t, d, s, s, distinction{}, api.ErrState)
+			checkPair(t, d, s, 0, dfatest.Distinction{}, api.ErrState)
+			checkPair(t, d, 0, s, dfatest.Distinction{}, api.ErrState)
+			checkPair(t, d, s, s, dfatest.Distinction{}, api.ErrState)
 		}
 		last := len(d.Next) - 1
-		checkPair(t, d, last, last, distinction{}, api.OK)
-		checkPair(t, d, last, 0, distinction{nil, true}, api.OK)
+		checkPair(t, d, last, last, dfatest.Distinction{}, api.OK)
+		checkPair(t, d, last, 0, by(nil), api.OK)
 	}
 }
 
 // The greatest automata, with partitions that take many rounds and with words that have many letters.
 func TestGreatestLines(t *testing.T) {
 	for _, vars := range []int{0, 6} {
-		d := line(vars, 4096)
+		d := dfatest.Line(vars, 4096)
 		checkMinimize(t, d, d, api.OK)
 		checkClasses(t, d, ascending(4096), api.OK)
 		checkRounds(t, d, 4093, append([]int{0}, ascending(4095)...), api.OK)
 		checkRounds(t, d, 4094, ascending(4096), api.OK)
 		checkRounds(t, d, math.MaxInt, ascending(4096), api.OK)
-		checkPair(t, d, 0, 1, distinction{make([]uint8, 4094), true}, api.OK)
-		checkPair(t, d, 1000, 4000, distinction{make([]uint8, 95), true}, api.OK)
-		longer := line(vars, 4097)
+		checkPair(t, d, 0, 1, by(make([]uint8, 4094)), api.OK)
+		checkPair(t, d, 1000, 4000, by(make([]uint8, 95)), api.OK)
+		longer := dfatest.Line(vars, 4097)
 		checkFault(t, longer, api.ErrLong)
 	}
 }
@@ -217,16 +197,16 @@ func TestGreatestLines(t *testing.T) {
 func TestGreatestCycles(t *testing.T) {
 	for _, vars := range []int{0, 6} {
 		for every := 1; every <= 4096; every *= 16 {
-			d := cycle(vars, 4096, every)
+			d := dfatest.Cycle(vars, 4096, every)
 			want := make([]int, 4096)
 			for s := range want {
 				want[s] = s % every
 			}
-			checkMinimize(t, d, cycle(vars, every, every), api.OK)
+			checkMinimize(t, d, dfatest.Cycle(vars, every, every), api.OK)
 			checkClasses(t, d, want, api.OK)
-			checkPair(t, d, 0, 4096-every, distinction{}, api.OK)
+			checkPair(t, d, 0, 4096-every, dfatest.Distinction{}, api.OK)
 			if every > 1 {
-				checkPair(t, d, 4096-every, 1, distinction{make([]uint8, every-2), true}, api.OK)
+				checkPair(t, d, 4096-every, 1, by(make([]uint8, every-2)), api.OK)
 			}
 		}
 	}
@@ -244,7 +224,7 @@ func TestGreatestTrees(t *testing.T) {
 			checkRounds(t, d, k, want, api.OK)
 		}
 		for k := range 12 {
-			checkPair(t, d, 4095, 4095-1<<k, distinction{make([]uint8, 11-k), true}, api.OK)
+			checkPair(t, d, 4095, 4095-1<<k, by(make([]uint8, 11-k)), api.OK)
 		}
 	}
 }
@@ -252,7 +232,7 @@ func TestGreatestTrees(t *testing.T) {
 // Round 1 makes a thousand classes of one, and round 2 does so with the states that lead to them.
 func TestManyClassesInARound(t *testing.T) {
 	const n, final, other = 1000, 2001, 2000
-	d := automaton(4, 2002, func(s, x int) int {
+	d := dfatest.Shaped(4, 2002, func(s, x int) int {
 		switch {
 		case s < n:
 			return n + s
@@ -271,8 +251,8 @@ func TestManyClassesInARound(t *testing.T) {
 func TestDistinguishAcrossCopies(t *testing.T) {
 	draw := dfatest.Choice(82)
 	for range 30 {
-		d := imitated(&draw, line(1, 12), 30)
-		table := distinctionsOf(d)
+		d := imitated(&draw, dfatest.Line(1, 12), 30)
+		table := dfatest.Distinctions(d)
 		for range 20 {
 			s, u := draw.Below(len(d.Next)), draw.Below(len(d.Next))
 			checkPair(t, d, s, u, table[s][u], api.OK)

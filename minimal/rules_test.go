@@ -22,17 +22,17 @@ func TestErrorsOfAnyAutomata(t *testing.T) {
 			checkFault(t, d, fault)
 			continue
 		}
-		table := distinctionsOf(d)
-		checkMinimize(t, d, minimizedOf(d), api.OK)
-		checkClasses(t, d, roundsOf(table, math.MaxInt), api.OK)
+		table := dfatest.Distinctions(d)
+		checkMinimize(t, d, dfatest.Minimized(d), api.OK)
+		checkClasses(t, d, dfatest.Together(table, math.MaxInt), api.OK)
 		k := draw.Below(7) - 2
-		checkRounds(t, d, k, roundsOf(table, k), api.OK)
+		checkRounds(t, d, k, dfatest.Together(table, k), api.OK)
 		s, u := draw.Below(len(d.Next)), draw.Below(len(d.Next)+2)-1
 		if u >= 0 && u < len(d.Next) {
 			checkPair(t, d, s, u, table[s][u], api.OK)
 		} else {
-			checkPair(t, d, s, u, distinction{}, api.ErrState)
-			checkPair(t, d, u, s, distinction{}, api.ErrState)
+			checkPair(t, d, s, u, dfatest.Distinction{}, api.ErrState)
+			checkPair(t, d, u, s, dfatest.Distinction{}, api.ErrState)
 		}
 	}
 	for _, e := range []api.Errno{api.OK, api.ErrForm, api.ErrShort, api.ErrVars, api.ErrState} {
@@ -84,14 +84,14 @@ func TestArgumentsAreLeft(t *testing.T) {
 	for _, s := range some(5) {
 		d := dfatest.Padded(s.DFA)
 		before := dfatest.Whole(d)
-		table := distinctionsOf(s.DFA)
-		checkMinimize(t, d, minimizedOf(s.DFA), api.OK)
-		checkClasses(t, d, roundsOf(table, math.MaxInt), api.OK)
-		checkRounds(t, d, 1, roundsOf(table, 1), api.OK)
+		table := dfatest.Distinctions(s.DFA)
+		checkMinimize(t, d, dfatest.Minimized(s.DFA), api.OK)
+		checkClasses(t, d, dfatest.Together(table, math.MaxInt), api.OK)
+		checkRounds(t, d, 1, dfatest.Together(table, 1), api.OK)
 		for u, want := range table[0] {
 			checkPair(t, d, 0, u, want, api.OK)
 		}
-		checkPair(t, d, 0, len(d.Next), distinction{}, api.ErrState)
+		checkPair(t, d, 0, len(d.Next), dfatest.Distinction{}, api.ErrState)
 		if !dfatest.Same(dfatest.Whole(d), before) {
 			t.Errorf("the argument %v has become %v", before, d)
 		}
@@ -102,7 +102,7 @@ func TestArgumentsAreLeft(t *testing.T) {
 func TestMinimizeSharesNoMemory(t *testing.T) {
 	for _, s := range some(3) {
 		d := dfatest.Copied(s.DFA)
-		want := minimizedOf(d)
+		want := dfatest.Minimized(d)
 		first, _ := minimal.Minimize(d)
 		second, _ := minimal.Minimize(d)
 		if !dfatest.Apart(first.Next) {
@@ -127,11 +127,11 @@ func TestMinimizeSharesNoMemory(t *testing.T) {
 func TestListsShareNoMemory(t *testing.T) {
 	for _, s := range some(3) {
 		d := dfatest.Copied(s.DFA)
-		table := distinctionsOf(d)
-		u := slices.IndexFunc(table[0], func(x distinction) bool { return len(x.word) > 1 })
+		table := dfatest.Distinctions(d)
+		u := slices.IndexFunc(table[0], func(x dfatest.Distinction) bool { return len(x.Word) > 1 })
 		checkLists := func() {
-			checkClasses(t, d, roundsOf(table, math.MaxInt), api.OK)
-			checkRounds(t, d, 1, roundsOf(table, 1), api.OK)
+			checkClasses(t, d, dfatest.Together(table, math.MaxInt), api.OK)
+			checkRounds(t, d, 1, dfatest.Together(table, 1), api.OK)
 			if u >= 0 {
 				checkPair(t, d, 0, u, table[0][u], api.OK)
 			}
@@ -158,14 +158,14 @@ func TestParallelCalls(t *testing.T) {
 			ok := true
 			for i := range work {
 				d := work[(i*7+k*20)%len(work)].DFA
-				table := distinctionsOf(d)
+				table := dfatest.Distinctions(d)
 				last := len(d.Next) - 1
 				m, e := minimal.Minimize(d)
 				l, f := minimal.Rounds(d, 2)
 				w, is, g := minimal.Distinguish(d, 0, last)
-				ok = ok && e == api.OK && dfatest.Same(m, minimizedOf(d))
-				ok = ok && f == api.OK && slices.Equal(l, roundsOf(table, 2))
-				ok = ok && g == api.OK && is == table[0][last].is && slices.Equal(w, table[0][last].word)
+				ok = ok && e == api.OK && dfatest.Same(m, dfatest.Minimized(d))
+				ok = ok && f == api.OK && slices.Equal(l, dfatest.Together(table, 2))
+				ok = ok && g == api.OK && is == table[0][last].Is && slices.Equal(w, table[0][last].Word)
 			}
 			done <- ok
 		}()

@@ -70,7 +70,7 @@ func TestSubsetAutomataAcceptTheSameWords(t *testing.T) {
 }
 
 func TestSubsetAutomataGoOnAsAfter(t *testing.T) {
-	for _, s := range some(samples(), 3) {
+	for _, s := range dfatest.Some(samples(), 3) {
 		d, sets := determinize(t, s.NFA)
 		for k, row := range d.Next {
 			for x, to := range row {

@@ -209,15 +209,6 @@ func deterministicSamples() []deterministicSample {
 	return l
 }
 
-// some returns one of each so many things.
-func some[T any](l []T, every int) []T {
-	var r []T
-	for i := 0; i < len(l); i += every {
-		r = append(r, l[i])
-	}
-	return r
-}
-
 // checkWord checks Run and Accepts.
 func checkWord(t *testing.T, d api.DFA, w []uint8, state int, accepted bool) {
 	t.Helper()

@@ -149,7 +149,7 @@ func wholeEdges(n api.NFA) api.NFA {
 
 // R3: arguments are not changed, and what is beyond their length is not read.
 func TestArgumentsAreLeft(t *testing.T) {
-	for _, s := range some(deterministicSamples(), 4) {
+	for _, s := range dfatest.Some(deterministicSamples(), 4) {
 		d := dfatest.Padded(s.DFA)
 		w := append(slices.Clone(s.words[len(s.words)-1]), 255, 1)
 		before, word := dfatest.Whole(d), slices.Clone(w)
@@ -163,7 +163,7 @@ func TestArgumentsAreLeft(t *testing.T) {
 			t.Errorf("the arguments %v and %d have become %v and %d", before, word, d, w)
 		}
 	}
-	for _, s := range some(samples(), 4) {
+	for _, s := range dfatest.Some(samples(), 4) {
 		n := paddedEdges(s.NFA)
 		before := wholeEdges(n)
 		want, sets := determinizedOf(s.NFA, mostSets)
@@ -184,7 +184,7 @@ func checkRowsApart(t *testing.T, name string, l [][]int) {
 
 // R3: the rows of a resulting automaton share no memory with an argument or with each other.
 func TestRenumberSharesNoMemory(t *testing.T) {
-	for _, s := range some(deterministicSamples(), 3) {
+	for _, s := range dfatest.Some(deterministicSamples(), 3) {
 		d := dfatest.Copied(s.DFA)
 		for k := range d.Next { // Sharing in the argument must not lead to sharing in the result.
 			d.Next[k] = d.Next[0]
@@ -209,7 +209,7 @@ func TestRenumberSharesNoMemory(t *testing.T) {
 
 // R3: the same for the lists of a resulting nondeterministic automaton.
 func TestToNFASharesNoMemory(t *testing.T) {
-	for _, s := range some(deterministicSamples(), 3) {
+	for _, s := range dfatest.Some(deterministicSamples(), 3) {
 		d := dfatest.Copied(s.DFA)
 		first, e := subset.ToNFA(d)
 		if e != api.OK {
@@ -227,7 +227,7 @@ func TestToNFASharesNoMemory(t *testing.T) {
 
 // R3: the same for a subset automaton and its sets.
 func TestDeterminizeSharesNoMemory(t *testing.T) {
-	for _, s := range some(samples(), 3) {
+	for _, s := range dfatest.Some(samples(), 3) {
 		n := copiedEdges(s.NFA)
 		n.Final = n.Start
 		want, sets := determinizedOf(n, mostSets)
@@ -251,7 +251,7 @@ func TestDeterminizeSharesNoMemory(t *testing.T) {
 
 // P1: calls at the same time do not influence each other.
 func TestParallelCalls(t *testing.T) {
-	work := some(samples(), 8)
+	work := dfatest.Some(samples(), 8)
 	done := make(chan bool)
 	for k := range 4 {
 		go func() {

@@ -63,6 +63,30 @@ func (c *Choice) Automaton(vars, states int) api.DFA {
 	return d
 }
 
+// Imitated returns an automaton with several states for each state of d, and for each of its states
+// the one of d that it behaves as. It starts in any of them.
+func (c *Choice) Imitated(d api.DFA, more int) (r api.DFA, states []int) {
+	for s := range d.Next {
+		states = append(states, s)
+	}
+	for range more {
+		states = slices.Insert(states, c.Below(len(states)+1), c.Below(len(d.Next)))
+	}
+	r = api.DFA{Vars: d.Vars, Start: c.Below(len(states))}
+	for _, s := range states {
+		var row []int
+		for _, to := range d.Next[s] {
+			at := c.Below(len(states))
+			for states[at] != to {
+				at = (at + 1) % len(states)
+			}
+			row = append(row, at)
+		}
+		r.Next, r.Final = append(r.Next, row), append(r.Final, d.Final[s])
+	}
+	return r, states
+}
+
 // Wild returns an automaton that has few chances of being valid.
 func (c *Choice) Wild() api.DFA {
 	d := api.DFA{Vars: c.Below(3)}
@@ -94,4 +118,13 @@ func (c *Choice) wildRow(vars, states int) []int {
 		row = slices.Repeat(row, 2*c.Below(2))
 	}
 	return row
+}
+
+// Some returns one of each so many things.
+func Some[T any](l []T, every int) []T {
+	var r []T
+	for i := 0; i < len(l); i += every {
+		r = append(r, l[i])
+	}
+	return r
 }
