@@ -26,9 +26,9 @@ func TestOperations(t *testing.T) {
 			want := dfatest.Minimized(product)
 			checkCombined(t, o, s.a, s.b, want, api.OK)
 			switch {
-			case dfatest.Same(want, constant(s.a.Vars, false)):
+			case dfatest.Same(want, dfatest.Constant(s.a.Vars, false)):
 				empty++
-			case dfatest.Same(want, constant(s.a.Vars, true)):
+			case dfatest.Same(want, dfatest.Constant(s.a.Vars, true)):
 				all++
 			case len(want.Next) < len(product.Next):
 				smaller++
@@ -81,10 +81,10 @@ func TestOperationsOfExamples(t *testing.T) {
 	checkNot(t, one(), api.DFA{Vars: 1, Next: [][]int{{1, 2}, {1, 1}, {2, 2}}, Final: []bool{true, true, false}}, api.OK)
 	checkNot(t, even(), api.DFA{Vars: 1, Next: [][]int{{1, 1}, {0, 0}}, Final: []bool{false, true}}, api.OK)
 	for vars := range 7 {
-		checkNot(t, constant(vars, true), constant(vars, false), api.OK)
-		checkNot(t, constant(vars, false), constant(vars, true), api.OK)
+		checkNot(t, dfatest.Constant(vars, true), dfatest.Constant(vars, false), api.OK)
+		checkNot(t, dfatest.Constant(vars, false), dfatest.Constant(vars, true), api.OK)
 		for _, o := range operations() {
-			checkCombined(t, o, constant(vars, true), constant(vars, false), constant(vars, o.of(true, false)), api.OK)
+			checkCombined(t, o, dfatest.Constant(vars, true), dfatest.Constant(vars, false), dfatest.Constant(vars, o.of(true, false)), api.OK)
 		}
 	}
 }
@@ -139,16 +139,16 @@ func TestIncludedOfExamples(t *testing.T) {
 	checkIncluded(t, even(), one(), by(), api.OK)
 	checkIncluded(t, one(), one(), none, api.OK)
 	for vars := range 7 {
-		checkIncluded(t, constant(vars, false), constant(vars, true), none, api.OK)
-		checkIncluded(t, constant(vars, true), constant(vars, false), by(), api.OK)
+		checkIncluded(t, dfatest.Constant(vars, false), dfatest.Constant(vars, true), none, api.OK)
+		checkIncluded(t, dfatest.Constant(vars, true), dfatest.Constant(vars, false), by(), api.OK)
 	}
 	// The shortest word is smaller than the first one letter by letter: 3 before 0 3, and 2 before 3.
 	a := api.DFA{Vars: 2, Next: [][]int{{1, 1, 2, 2}, {1, 1, 1, 2}, {2, 2, 2, 2}}, Final: []bool{false, false, true}}
-	checkIncluded(t, a, constant(2, false), by(2), api.OK)
+	checkIncluded(t, a, dfatest.Constant(2, false), by(2), api.OK)
 	a.Next[0][2] = 1
-	checkIncluded(t, a, constant(2, false), by(3), api.OK)
+	checkIncluded(t, a, dfatest.Constant(2, false), by(3), api.OK)
 	a.Next[0][3] = 0
-	checkIncluded(t, a, constant(2, false), by(0, 3), api.OK)
+	checkIncluded(t, a, dfatest.Constant(2, false), by(0, 3), api.OK)
 }
 
 func TestEqualOfExamples(t *testing.T) {
@@ -156,9 +156,9 @@ func TestEqualOfExamples(t *testing.T) {
 	m, _ = boolean.Not(m)
 	checkEqual(t, one(), m, true, api.OK)
 	checkEqual(t, one(), even(), false, api.OK)
-	checkEqual(t, constant(6, true), constant(6, true), true, api.OK)
-	checkEqual(t, constant(6, true), constant(6, false), false, api.OK)
-	checkEqual(t, constant(6, false), constant(6, true), false, api.OK)
+	checkEqual(t, dfatest.Constant(6, true), dfatest.Constant(6, true), true, api.OK)
+	checkEqual(t, dfatest.Constant(6, true), dfatest.Constant(6, false), false, api.OK)
+	checkEqual(t, dfatest.Constant(6, false), dfatest.Constant(6, true), false, api.OK)
 }
 
 // P9.3
@@ -187,15 +187,15 @@ func TestAll(t *testing.T) {
 
 func TestAllOfExamples(t *testing.T) {
 	for vars := range 7 {
-		checkAll(t, vars, nil, constant(vars, true), api.OK)
-		checkAll(t, vars, []api.DFA{}, constant(vars, true), api.OK)
-		checkAll(t, vars, []api.DFA{constant(vars, true), constant(vars, false)}, constant(vars, false), api.OK)
+		checkAll(t, vars, nil, dfatest.Constant(vars, true), api.OK)
+		checkAll(t, vars, []api.DFA{}, dfatest.Constant(vars, true), api.OK)
+		checkAll(t, vars, []api.DFA{dfatest.Constant(vars, true), dfatest.Constant(vars, false)}, dfatest.Constant(vars, false), api.OK)
 	}
 	both := combinedOf(and(), one(), even())
 	checkAll(t, 1, []api.DFA{one()}, api.DFA{Vars: 1, Next: [][]int{{1, 2}, {1, 1}, {2, 2}}, Final: []bool{false, false, true}}, api.OK)
 	checkAll(t, 1, []api.DFA{one(), even()}, both, api.OK)
 	checkAll(t, 1, []api.DFA{even(), one(), even(), one()}, both, api.OK)
-	checkAll(t, 1, []api.DFA{even(), complementOf(even())}, constant(1, false), api.OK)
+	checkAll(t, 1, []api.DFA{even(), complementOf(even())}, dfatest.Constant(1, false), api.OK)
 }
 
 func TestErrorsOfAll(t *testing.T) {
@@ -204,7 +204,7 @@ func TestErrorsOfAll(t *testing.T) {
 			checkAll(t, vars, l, api.DFA{}, api.ErrVars)
 		}
 	}
-	short, over2 := api.DFA{}, constant(2, true)
+	short, over2 := api.DFA{}, dfatest.Constant(2, true)
 	state := api.DFA{Vars: 1, Start: 1, Next: [][]int{{0, 0}}, Final: []bool{true}}
 	for _, x := range []struct {
 		l    []api.DFA
@@ -217,8 +217,8 @@ func TestErrorsOfAll(t *testing.T) {
 		{[]api.DFA{one(), state, short, over2}, api.ErrState},
 		{[]api.DFA{over2, short}, api.ErrVars},
 		{[]api.DFA{one(), over2, state}, api.ErrVars},
-		{[]api.DFA{constant(1, false), short}, api.ErrShort},
-		{[]api.DFA{constant(1, false), constant(0, false)}, api.ErrVars},
+		{[]api.DFA{dfatest.Constant(1, false), short}, api.ErrShort},
+		{[]api.DFA{dfatest.Constant(1, false), dfatest.Constant(0, false)}, api.ErrVars},
 		{[]api.DFA{dfatest.Cycle(1, 17, 17), dfatest.Cycle(1, 241, 241), short, over2}, api.ErrBudget},
 		{[]api.DFA{dfatest.Cycle(1, 17, 17), state, dfatest.Cycle(1, 241, 241)}, api.ErrState},
 		{[]api.DFA{dfatest.Cycle(1, 17, 17), over2, dfatest.Cycle(1, 241, 241)}, api.ErrVars},
@@ -232,7 +232,7 @@ func TestAllMinimizesOnTheWay(t *testing.T) {
 	never := dfatest.Cycle(0, 17, 18)
 	long := dfatest.Cycle(0, 241, 241)
 	checkFault(t, never, long, api.ErrBudget)
-	checkAll(t, 0, []api.DFA{never, long}, constant(0, false), api.OK)
+	checkAll(t, 0, []api.DFA{never, long}, dfatest.Constant(0, false), api.OK)
 	checkAll(t, 0, []api.DFA{long, never}, api.DFA{}, api.ErrBudget)
 	checkAll(t, 0, []api.DFA{long, dfatest.Cycle(0, 17, 1)}, api.DFA{}, api.ErrBudget)
 	checkAll(t, 0, []api.DFA{dfatest.Cycle(0, 17, 1), long}, long, api.OK)
@@ -291,7 +291,7 @@ func TestBudgetCountsPairs(t *testing.T) {
 		checkFault(t, dfatest.Cycle(vars, 17, 1), b, api.ErrBudget)
 		b = dfatest.Cycle(vars, 240, 241)
 		for _, o := range operations() {
-			checkCombined(t, o, a, b, constant(vars, false), api.OK)
+			checkCombined(t, o, a, b, dfatest.Constant(vars, false), api.OK)
 		}
 		checkIncluded(t, a, b, dfatest.Distinction{}, api.OK)
 		checkEqual(t, a, b, true, api.OK)
@@ -306,7 +306,7 @@ func TestUnreachablePairsDoNotCount(t *testing.T) {
 	b := dfatest.Shaped(3, 4095, stay, func(s int) bool { return s == 0 })
 	a.Start = 4095
 	for _, o := range operations() {
-		checkCombined(t, o, a, b, constant(3, o.of(true, true)), api.OK)
+		checkCombined(t, o, a, b, dfatest.Constant(3, o.of(true, true)), api.OK)
 	}
 	checkEqual(t, a, b, true, api.OK)
 	b.Start = 4094
@@ -314,17 +314,10 @@ func TestUnreachablePairsDoNotCount(t *testing.T) {
 	checkIncluded(t, b, a, dfatest.Distinction{}, api.OK)
 }
 
-// recent returns an automaton whose states are the last digits of variable v; a word is accepted if the first of these is 1.
-func recent(vars, v, digits int) api.DFA {
-	return dfatest.Shaped(vars, 1<<digits,
-		func(s, x int) int { return (2*s + x>>v%2) % (1 << digits) },
-		func(s int) bool { return s >= 1<<digits/2 })
-}
-
 // With two variables all pairs of states are reached, in an order that depends on the letters.
 func TestProductsOverTwoVariables(t *testing.T) {
 	for _, vars := range []int{2, 6} {
-		a, b := recent(vars, 0, 6), recent(vars, vars-1, 6)
+		a, b := dfatest.Recent(vars, 0, 6), dfatest.Recent(vars, vars-1, 6)
 		for _, o := range operations() {
 			d := dfatest.Shaped(vars, 64, func(s, x int) int {
 				return (2*s + index(o.of(x%2 == 1, x>>(vars-1)%2 == 1))) % 64
@@ -336,7 +329,7 @@ func TestProductsOverTwoVariables(t *testing.T) {
 		}
 		checkIncluded(t, a, b, dfatest.Distinction{Word: []uint8{1, 0, 0, 0, 0, 0}, Is: true}, api.OK)
 		checkIncluded(t, b, a, dfatest.Distinction{Word: []uint8{1 << (vars - 1), 0, 0, 0, 0, 0}, Is: true}, api.OK)
-		checkFault(t, a, recent(vars, vars-1, 7), api.ErrBudget)
+		checkFault(t, a, dfatest.Recent(vars, vars-1, 7), api.ErrBudget)
 	}
 }
 
@@ -344,7 +337,7 @@ func TestProductsOverTwoVariables(t *testing.T) {
 func TestLongestWords(t *testing.T) {
 	for _, vars := range []int{0, 6} {
 		d := dfatest.Line(vars, 4096)
-		nothing := constant(vars, false)
+		nothing := dfatest.Constant(vars, false)
 		checkIncluded(t, d, nothing, dfatest.Distinction{Word: make([]uint8, 4095), Is: true}, api.OK)
 		checkIncluded(t, nothing, d, dfatest.Distinction{}, api.OK)
 		checkIncluded(t, dfatest.Line(vars, 66), d, dfatest.Distinction{Word: make([]uint8, 65), Is: true}, api.OK)
@@ -360,5 +353,5 @@ func TestLongestWords(t *testing.T) {
 	for i := range fives {
 		fives[i] = 5
 	}
-	checkIncluded(t, d, constant(3, false), dfatest.Distinction{Word: fives, Is: true}, api.OK)
+	checkIncluded(t, d, dfatest.Constant(3, false), dfatest.Distinction{Word: fives, Is: true}, api.OK)
 }

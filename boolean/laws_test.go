@@ -93,10 +93,10 @@ func TestComplements(t *testing.T) {
 		same(t, "De Morgan's second law", not(t, f.or(a, b)), f.and(not(t, a), not(t, b)))
 		m := dfatest.Minimized(a)
 		same(t, "involution", not(t, not(t, m)), m)
-		same(t, "a & !a", f.and(a, not(t, a)), constant(a.Vars, false))
-		same(t, "a | !a", f.or(a, not(t, a)), constant(a.Vars, true))
-		same(t, "a + !a", f.xor(a, not(t, a)), constant(a.Vars, true))
-		same(t, "a - a", f.minus(a, a), constant(a.Vars, false))
+		same(t, "a & !a", f.and(a, not(t, a)), dfatest.Constant(a.Vars, false))
+		same(t, "a | !a", f.or(a, not(t, a)), dfatest.Constant(a.Vars, true))
+		same(t, "a + !a", f.xor(a, not(t, a)), dfatest.Constant(a.Vars, true))
+		same(t, "a - a", f.minus(a, a), dfatest.Constant(a.Vars, false))
 		same(t, "a - b", f.minus(a, b), f.and(a, not(t, b)))
 		same(t, "a + b", f.xor(a, b), f.or(f.minus(a, b), f.minus(b, a)))
 		same(t, "a + b", f.xor(a, b), f.minus(f.or(a, b), f.and(a, b)))
@@ -106,7 +106,7 @@ func TestComplements(t *testing.T) {
 func TestConstants(t *testing.T) {
 	f := algebraOf(t)
 	triples(func(a, _, _ api.DFA) {
-		m, all, nothing := dfatest.Minimized(a), constant(a.Vars, true), constant(a.Vars, false)
+		m, all, nothing := dfatest.Minimized(a), dfatest.Constant(a.Vars, true), dfatest.Constant(a.Vars, false)
 		same(t, "a & all", f.and(a, all), m)
 		same(t, "a & nothing", f.and(a, nothing), nothing)
 		same(t, "a | all", f.or(a, all), all)

@@ -58,19 +58,14 @@ func combinedOf(o operation, a, b api.DFA) api.DFA {
 	return dfatest.Minimized(productOf(o, a, b))
 }
 
-// constant returns the automaton of all words, or of none.
-func constant(vars int, accepts bool) api.DFA {
-	return dfatest.Shaped(vars, 1, func(s, x int) int { return 0 }, func(s int) bool { return accepts })
-}
-
 // complementOf returns the minimal automaton of the words that d does not accept.
 func complementOf(d api.DFA) api.DFA {
-	return combinedOf(minus(), constant(d.Vars, true), d)
+	return combinedOf(minus(), dfatest.Constant(d.Vars, true), d)
 }
 
 // allOf returns the minimal automaton of the words that all of the automata accept.
 func allOf(vars int, l []api.DFA) api.DFA {
-	m := constant(vars, true)
+	m := dfatest.Constant(vars, true)
 	for _, d := range l {
 		m = combinedOf(and(), m, d)
 	}
@@ -116,25 +111,6 @@ func even() api.DFA {
 	return api.DFA{Vars: 1, Next: [][]int{{1, 1}, {0, 0}}, Final: []bool{true, false}}
 }
 
-// imitated returns an automaton that accepts the same words as d, with more states.
-func imitated(draw *dfatest.Choice, d api.DFA, more int) api.DFA {
-	r, states := draw.Imitated(d, more)
-	r.Start = slices.Index(states, d.Start)
-	return r
-}
-
-// changed returns an automaton that is almost d.
-func changed(draw *dfatest.Choice, d api.DFA) api.DFA {
-	d = dfatest.Copied(d)
-	s := draw.Below(len(d.Next))
-	if draw.Below(2) == 0 {
-		d.Final[s] = !d.Final[s]
-	} else {
-		d.Next[s][draw.Below(1<<d.Vars)] = draw.Below(len(d.Next))
-	}
-	return d
-}
-
 // samples returns pairs of automata with all relations between their languages.
 func samples() []sample {
 	draw := dfatest.Choice(91)
@@ -154,18 +130,18 @@ func samples() []sample {
 		vars := draw.Below(3)
 		a, b := draw.Automaton(vars, 1+draw.Below(5)), draw.Automaton(vars, 1+draw.Below(5))
 		both := productOf(and(), a, b)
-		add(a, imitated(&draw, a, draw.Below(5)))
-		add(imitated(&draw, both, 1), b)
-		add(a, imitated(&draw, both, 2))
-		add(a, imitated(&draw, changed(&draw, a), draw.Below(5)))
+		add(a, draw.Enlarged(a, draw.Below(5)))
+		add(draw.Enlarged(both, 1), b)
+		add(a, draw.Enlarged(both, 2))
+		add(a, draw.Enlarged(draw.Changed(a), draw.Below(5)))
 	}
 	for range 300 { // with letters that mostly lead to the next state, the smallest words become long
 		d := dfatest.Line(draw.Below(3), 2+draw.Below(10))
 		d.Final[draw.Below(len(d.Next))] = true
 		for range draw.Below(3) {
-			d = changed(&draw, d)
+			d = draw.Changed(d)
 		}
-		add(d, imitated(&draw, changed(&draw, d), draw.Below(4)))
+		add(d, draw.Enlarged(draw.Changed(d), draw.Below(4)))
 	}
 	return l
 }

@@ -16,7 +16,7 @@ func TestErrorsOfAnyAutomata(t *testing.T) {
 	for range 20000 {
 		a, b := draw.Wild(), draw.Wild()
 		if draw.Below(3) > 0 {
-			b = changed(&draw, constant(draw.Below(3), true))
+			b = draw.Changed(dfatest.Constant(draw.Below(3), true))
 		}
 		if e := dfatest.ErrorOf(a); e != api.OK {
 			checkNot(t, a, api.DFA{}, e)
@@ -42,49 +42,27 @@ func TestErrorsOfAnyAutomata(t *testing.T) {
 	}
 }
 
-// faulty is an automaton with the error of subset.Check.
-type faulty struct {
-	api.DFA
-	fault api.Errno
-}
-
-// faulties returns an automaton for each condition of subset.Check.
-func faulties() []faulty {
-	rows := [][]int{{0, 1}, {1, 1}}
-	final := []bool{true, false}
-	return []faulty{
-		{api.DFA{Vars: 7, Next: rows, Final: final}, api.ErrVars},
-		{api.DFA{Vars: -1, Next: rows, Final: final}, api.ErrVars},
-		{api.DFA{Vars: 1}, api.ErrShort},
-		{api.DFA{Vars: 1, Next: make([][]int, 4097), Final: make([]bool, 4097)}, api.ErrLong},
-		{api.DFA{Vars: 1, Next: rows, Final: final[:1]}, api.ErrForm},
-		{api.DFA{Vars: 1, Start: 2, Next: rows, Final: final}, api.ErrState},
-		{api.DFA{Vars: 2, Next: rows, Final: final}, api.ErrForm},
-		{api.DFA{Vars: 1, Next: [][]int{{0, 1}, {1, 2}}, Final: final}, api.ErrState},
-	}
-}
-
 // R2: the first automaton is checked before the second one, both before their variables, and these before the product.
 func TestOrderOfErrors(t *testing.T) {
-	over1, over2 := constant(1, true), constant(2, true)
-	for _, a := range faulties() {
-		if e := dfatest.ErrorOf(a.DFA); e != a.fault {
-			t.Errorf("the model has the error %d for %v, want %d", e, a.DFA, a.fault)
+	over1, over2 := dfatest.Constant(1, true), dfatest.Constant(2, true)
+	for _, a := range dfatest.Faulties() {
+		if e := dfatest.ErrorOf(a.DFA); e != a.Fault {
+			t.Errorf("the model has the error %d for %v, want %d", e, a.DFA, a.Fault)
 		}
-		checkNot(t, a.DFA, api.DFA{}, a.fault)
+		checkNot(t, a.DFA, api.DFA{}, a.Fault)
 		for _, b := range []api.DFA{over1, over2} {
-			checkFault(t, a.DFA, b, a.fault)
-			checkFault(t, b, a.DFA, a.fault)
-			checkAll(t, b.Vars, []api.DFA{b, a.DFA}, api.DFA{}, a.fault)
+			checkFault(t, a.DFA, b, a.Fault)
+			checkFault(t, b, a.DFA, a.Fault)
+			checkAll(t, b.Vars, []api.DFA{b, a.DFA}, api.DFA{}, a.Fault)
 		}
-		for _, b := range faulties() {
-			checkFault(t, a.DFA, b.DFA, a.fault)
+		for _, b := range dfatest.Faulties() {
+			checkFault(t, a.DFA, b.DFA, a.Fault)
 		}
 	}
 	checkFault(t, over1, over2, api.ErrVars)
 	checkFault(t, over2, over1, api.ErrVars)
 	checkFault(t, dfatest.Cycle(1, 17, 17), dfatest.Cycle(2, 241, 241), api.ErrVars)
-	checkFault(t, constant(0, true), constant(6, true), api.ErrVars)
+	checkFault(t, dfatest.Constant(0, true), dfatest.Constant(6, true), api.ErrVars)
 }
 
 // R1: nil and empty slices are equivalent.
@@ -94,7 +72,7 @@ func TestNilIsEmpty(t *testing.T) {
 			d := api.DFA{Next: rows, Final: final}
 			checkNot(t, d, api.DFA{}, api.ErrShort)
 			checkFault(t, d, d, api.ErrShort)
-			checkFault(t, constant(0, true), d, api.ErrShort)
+			checkFault(t, dfatest.Constant(0, true), d, api.ErrShort)
 			checkAll(t, 0, []api.DFA{d}, api.DFA{}, api.ErrShort)
 		}
 	}

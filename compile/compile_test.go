@@ -222,19 +222,12 @@ func repeated(letters int, left bool) string {
 	return text
 }
 
-// recent returns an automaton of the words whose last letters, as many as there are digits, begin with variable 0.
-func recent(vars, digits int) api.DFA {
-	return dfatest.Shaped(vars, 1<<digits,
-		func(s, x int) int { return (2*s + x%2) % (1 << digits) },
-		func(s int) bool { return s >= 1<<digits/2 })
-}
-
 // Automata have as many states as the limit allows, but no more.
 func TestAutomataOfGreatestSize(t *testing.T) {
 	draw := choice{104}
 	for _, vars := range []int{1, 6} {
 		for _, digits := range []int{2, 5, 11, 12} {
-			want := recent(vars, digits)
+			want := dfatest.Recent(vars, 0, digits)
 			for _, left := range []bool{false, true} {
 				text := "(([*]*).([a]." + repeated(digits-1, left) + "))"
 				d, is := compiled(t, parsed(t, text, vars))

@@ -10,13 +10,6 @@ import (
 	"sentinel/minimal"
 )
 
-// recent returns an automaton whose states are the last digits of the word; a word is accepted if the first of these is 1.
-func recent(vars, digits int) api.DFA {
-	return dfatest.Shaped(vars, 1<<digits,
-		func(s, x int) int { return (2*s + x%2) % (1 << digits) },
-		func(s int) bool { return s >= 1<<digits/2 })
-}
-
 // ascending returns the numbers from 0 to n - 1.
 func ascending(n int) []int {
 	l := make([]int, n)
@@ -214,7 +207,7 @@ func TestGreatestCycles(t *testing.T) {
 
 func TestGreatestTrees(t *testing.T) {
 	for _, vars := range []int{1, 6} {
-		d := recent(vars, 12)
+		d := dfatest.Recent(vars, 0, 12)
 		checkMinimize(t, d, d, api.OK)
 		for k := range 13 {
 			want := make([]int, 4096)

@@ -87,6 +87,25 @@ func (c *Choice) Imitated(d api.DFA, more int) (r api.DFA, states []int) {
 	return r, states
 }
 
+// Enlarged returns an automaton that accepts the same words as d, with more states.
+func (c *Choice) Enlarged(d api.DFA, more int) api.DFA {
+	r, states := c.Imitated(d, more)
+	r.Start = slices.Index(states, d.Start)
+	return r
+}
+
+// Changed returns an automaton that is almost d.
+func (c *Choice) Changed(d api.DFA) api.DFA {
+	d = Copied(d)
+	s := c.Below(len(d.Next))
+	if c.Below(2) == 0 {
+		d.Final[s] = !d.Final[s]
+	} else {
+		d.Next[s][c.Below(1<<d.Vars)] = c.Below(len(d.Next))
+	}
+	return d
+}
+
 // Wild returns an automaton that has few chances of being valid.
 func (c *Choice) Wild() api.DFA {
 	d := api.DFA{Vars: c.Below(3)}
